@@ -6,6 +6,8 @@ import (
 	"math/big"
 	"strings"
 	"testing"
+
+	"consignor/samples"
 )
 
 // edges are numbers round about where something turns: 0, each power of 2 (so each byte, each seven bits), the ends.
@@ -26,24 +28,9 @@ var tails = []string{"", "\x00", "\x01", "\x80", "\xFF", "x", "\x80\x00", "\xFF\
 
 // someTexts are short ones of few bytes, and those whose length turns in sevens.
 func someTexts() []string {
-	l := texts("\x00\x01\x7F\x80\xFFa", 3)
+	l := samples.Texts("\x00\x01\x7F\x80\xFFa", 3)
 	for _, size := range []int{126, 127, 128, 129, 255, 256, 16383, 16384, 16385, 65536} {
 		l = append(l, strings.Repeat("z", size), strings.Repeat("\xFF", size))
-	}
-	return l
-}
-
-// texts are all those of up to so many of some bytes.
-func texts(letters string, most int) []string {
-	l := []string{""}
-	for from := 0; most > 0; most-- {
-		upTo := len(l)
-		for _, s := range l[from:upTo] {
-			for i := range len(letters) {
-				l = append(l, s+letters[i:i+1])
-			}
-		}
-		from = upTo
 	}
 	return l
 }
@@ -244,7 +231,7 @@ func isRead(t *testing.T, s string) {
 
 // P2.1, P2.2, P2.4, P2.5: all texts of a few bytes, alone and behind bytes that lead up to the last one that may be.
 func TestWhatIsReadIsPut(t *testing.T) {
-	for _, s := range texts("\x00\x01\x02\x03\x7F\x80\x81\xFF", 4) {
+	for _, s := range samples.Texts("\x00\x01\x02\x03\x7F\x80\x81\xFF", 4) {
 		isRead(t, s)
 		isRead(t, strings.Repeat("\x80", 7)+s)
 		isRead(t, strings.Repeat("\x80", 8)+s)

@@ -6,6 +6,8 @@ import (
 	"strconv"
 	"strings"
 	"testing"
+
+	"consignor/samples"
 )
 
 const (
@@ -234,24 +236,9 @@ func TestPutIsGot(t *testing.T) {
 	}
 }
 
-// texts are all those of up to so many of some letters.
-func texts(letters string, most int) []string {
-	l := []string{""}
-	for from := 0; most > 0; most-- {
-		upTo := len(l)
-		for _, s := range l[from:upTo] {
-			for i := range len(letters) {
-				l = append(l, s+letters[i:i+1])
-			}
-		}
-		from = upTo
-	}
-	return l
-}
-
 // P1.2 to P1.4: what is got is put, what is unpadded is padded to as much; all else is got as 0 and false.
 func TestGotIsPut(t *testing.T) {
-	for _, s := range texts("0189-+ /:a", 4) {
+	for _, s := range samples.Texts("0189-+ /:a", 4) {
 		gotIsPut(t, s)
 	}
 }
