@@ -21,3 +21,42 @@ func TestTexts(t *testing.T) {
 		}
 	}
 }
+
+// Just the bits of the pattern are turned over, the lowest byte at the place; turned over twice, the text is as it was.
+func TestTurned(t *testing.T) {
+	for _, x := range []struct {
+		s     string
+		place int
+		bits  uint32
+		want  string
+	}{
+		{"\x00\x00\x00\x00", 0, 0x80000001, "\x01\x00\x00\x80"}, {"abcdef", 1, 0x01020304, "af`fdf"}, {"abcdef", 2, 0, "abcdef"},
+		{"\xFF\x0F", 1, 0xF0, "\xFF\xFF"}, {"\xFF", 0, 1, "\xFE"},
+	} {
+		if s := Turned(x.s, x.place, x.bits); s != x.want {
+			t.Errorf("Turned(%x, %d, %x): %x; want %x", x.s, x.place, x.bits, s, x.want)
+		}
+		if s := Turned(x.want, x.place, x.bits); s != x.s {
+			t.Errorf("Turned(%x, %d, %x): %x; want %x", x.want, x.place, x.bits, s, x.s)
+		}
+	}
+}
+
+// Each single bit, each two, and all in a row from each to each are there, none turns nothing over, and they are the same again.
+func TestPatterns(t *testing.T) {
+	l := Patterns()
+	if slices.Contains(l, 0) || !slices.Equal(l, Patterns()) || len(l) < 1000 {
+		t.Errorf("%d patterns", len(l))
+	}
+	for i := range 32 {
+		for j := i; j < 32; j++ {
+			row := uint32(0)
+			for k := i; k <= j; k++ {
+				row |= 1 << k
+			}
+			if !slices.Contains(l, 1<<i|1<<j) || !slices.Contains(l, row) {
+				t.Errorf("bits %d and %d: both, or the row, are not there", i, j)
+			}
+		}
+	}
+}

@@ -201,43 +201,17 @@ func TestNothingElseOpens(t *testing.T) {
 	}
 }
 
-// turned is a text some bits of which, within four bytes from a place on, are turned over.
-func turned(s string, place int, bits uint32) string {
-	other := []byte(s)
-	for i := range 4 {
-		if b := byte(bits >> (8 * i)); b != 0 {
-			other[place+i] ^= b
-		}
-	}
-	return string(other)
-}
-
-// somePatterns are bits within four bytes: each one, each two, all in a row from each to each, all, and mixed ones.
-func somePatterns() []uint32 {
-	l := []uint32{0x82F63B78, 0x05EC76F1, 0xFFFFFFFF, 0x80000001, 0xAAAAAAAA, 0x55555555}
-	for i := range 32 {
-		for j := i; j < 32; j++ {
-			l = append(l, 1<<i|1<<j, ^uint32(0)<<i&(^uint32(0)>>(31-j)))
-		}
-	}
-	mix := rand.New(rand.NewSource(32))
-	for range 500 {
-		l = append(l, mix.Uint32()|1)
-	}
-	return l
-}
-
 // isAnother holds that a text and the one that was turned over have sums that differ, and that no turned one opens.
 func isAnother(t *testing.T, s string, bits uint32) {
 	sum := Sum(s)
 	for place := 0; place+4 <= len(s); place++ {
-		if other := turned(s, place, bits); Sum(other) == sum {
+		if other := samples.Turned(s, place, bits); Sum(other) == sum {
 			t.Errorf("Sum(%x) and Sum(%x): %08X, both", s, other, sum)
 		}
 	}
 	whole := Seal(s)
 	for place := 0; place+4 <= len(whole); place++ {
-		if text, ok := Open(turned(whole, place, bits)); text != "" || ok {
+		if text, ok := Open(samples.Turned(whole, place, bits)); text != "" || ok {
 			t.Errorf("Open of %x, sealed, and from %d on turned over by %x: %x, %v", s, place, bits, text, ok)
 		}
 	}
@@ -245,7 +219,7 @@ func isAnother(t *testing.T, s string, bits uint32) {
 
 // P3.2: bits within four bytes, side by side, in the text, in its sum, or over both.
 func TestTurnedOver(t *testing.T) {
-	for _, bits := range somePatterns() {
+	for _, bits := range samples.Patterns() {
 		for _, s := range []string{"", "a", "\x00\x00", "abc", "\x00\x00\x00\x00", "\xFF\xFF\xFF\xFF", "12345678", "consignor\x00\x80\xFF"} {
 			isAnother(t, s, bits)
 		}
