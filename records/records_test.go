@@ -13,12 +13,18 @@ import (
 	"consignor/samples"
 )
 
-// byWords is the record of a payload by the chapter's words and the library: of a payload of any length.
-func byWords(payload string) string {
-	b := binary.BigEndian.AppendUint32(nil, uint32(len(payload)))
-	b = append(b, payload...)
-	return string(binary.LittleEndian.AppendUint32(b, crc32.Checksum([]byte(payload), crc32.MakeTable(crc32.Castagnoli))))
+// sealed is a text with its sum behind it, by the library.
+func sealed(s string) string {
+	return string(binary.LittleEndian.AppendUint32([]byte(s), crc32.Checksum([]byte(s), crc32.MakeTable(crc32.Castagnoli))))
 }
+
+// length is a payload's length in four bytes.
+func length(payload string) string {
+	return string(binary.BigEndian.AppendUint32(nil, uint32(len(payload))))
+}
+
+// byWords is the record of a payload by the chapter's words and the library: of a payload of any length.
+func byWords(payload string) string { return sealed(length(payload) + payload) }
 
 // all are the records of payloads, one behind the other.
 func all(payloads ...string) string {
@@ -108,16 +114,18 @@ func isRead(t *testing.T, s string) {
 	finds(t, s, payloads, end)
 }
 
-// P7.1: the length in four bytes, the highest first, the payload, and the payload's sum, the lowest byte first.
+// P7.1: the length in four bytes, the highest first, the payload, and the sum of both, the lowest byte first.
 func TestPut(t *testing.T) {
 	for payload, want := range map[string]string{
-		"":                 "\x00\x00\x00\x00\x00\x00\x00\x00",
-		"a":                "\x00\x00\x00\x01a\x30\x43\xD0\xC1",
-		"\x00":             "\x00\x00\x00\x01\x00\x51\x53\x7D\x52",
-		"\xFF\xFF\xFF\xFF": "\x00\x00\x00\x04\xFF\xFF\xFF\xFF\xFF\xFF\xFF\xFF",
-		"123456789":        "\x00\x00\x00\x09123456789\x83\x92\x06\xE3",
-		"The quick brown fox jumps over the lazy dog": "\x00\x00\x00\x2BThe quick brown fox jumps over the lazy dog\x04\x04\x62\x22",
-		strings.Repeat("\x00", 32):                    "\x00\x00\x00\x20" + strings.Repeat("\x00", 32) + "\xAA\x36\x91\x8A",
+		"":                 "\x00\x00\x00\x00\xC7\x4B\x67\x48",
+		"a":                "\x00\x00\x00\x01a\x23\xFE\x7D\xC5",
+		"ab":               "\x00\x00\x00\x02ab\x63\x70\x86\x0B",
+		"\x00":             "\x00\x00\x00\x01\x00\x42\xEE\xD0\x56",
+		"\x00\x00\x00\x00": "\x00\x00\x00\x04\x00\x00\x00\x00\x3A\x0C\x6D\x6C",
+		"\xFF\xFF\xFF\xFF": "\x00\x00\x00\x04\xFF\xFF\xFF\xFF\x02\xB8\xF5\xDB",
+		"123456789":        "\x00\x00\x00\x09123456789\x6F\xCF\x34\x69",
+		"The quick brown fox jumps over the lazy dog": "\x00\x00\x00\x2BThe quick brown fox jumps over the lazy dog\xB3\x16\x2C\x65",
+		strings.Repeat("\x00", 32):                    "\x00\x00\x00\x20" + strings.Repeat("\x00", 32) + "\xA9\x6F\x54\x9C",
 	} {
 		if s, e := Put(payload); s != want || e != api.OK {
 			t.Errorf("Put(%x): %x, %d; want %x", payload, s, int(e), want)
@@ -178,18 +186,62 @@ func TestGetOfNoPlace(t *testing.T) {
 func TestGetOfNone(t *testing.T) {
 	for _, s := range []string{
 		"", "\x00", "\x00\x00\x00", "\x00\x00\x00\x00", "\x00\x00\x00\x00\x00\x00\x00", "abcdefgh", "\xFF\xFF\xFF\xFF\xFF\xFF\xFF\xFF",
-		"\x00\x00\x00\x00\x00\x00\x00\x01", "\x00\x00\x00\x00\x01\x00\x00\x00", "\x00\x00\x00\x00\xFF\xFF\xFF\xFF", "\x00\x00\x00\x01\x00\x00\x00\x00",
-		"\x00\x00\x00\x01a\x30\x43\xD0", "\x00\x00\x00\x01a\xC1\xD0\x43\x30", "\x00\x00\x00\x01b\x30\x43\xD0\xC1", "\x00\x00\x00\x01a\x00\x00\x00\x00",
-		"\x01\x00\x00\x00a\x30\x43\xD0\xC1", "\x00\x00\x01a\x30\x43\xD0\xC1", "\x01a\x30\x43\xD0\xC1", "a\x30\x43\xD0\xC1",
-		"\x00\x00\x00\x02a\x30\x43\xD0\xC1", "\x00\x00\x00\x02a\x30\x43\xD0\xC1\x00", "\x00\x00\x00\x00a\x30\x43\xD0\xC1",
-		"\x80\x00\x00\x00" + byWords("")[4:], "\xFF\xFF\xFF\xFF" + byWords("")[4:], "\xFF\xFF\xFF\xF8" + byWords("")[4:], "\xFF\xFF\xFF\xFC" + byWords("")[4:], "\x7F\xFF\xFF\xFF" + byWords("a")[4:],
-		"\x80\x00\x00\x01" + byWords("a")[4:], "\x00\x01\x00\x01" + byWords("a")[4:], "\x01\x00\x00\x01" + byWords("a")[4:],
+		"\x00\x00\x00\x00\x00\x00\x00\x00", "\x00\x00\x00\x00\xFF\xFF\xFF\xFF", "\x00\x00\x00\x01\x00\x00\x00\x00",
+		"\x00\x00\x00\x00\xC7\x4B\x67", "\x00\x00\x00\x00\x48\x67\x4B\xC7", "\x00\x00\x00\x00\xC7\x4B\x67\x49", "\x00\x00\x00\x00\x38\xB4\x98\xB7", "\x00\x00\x00\xC7\x4B\x67\x48",
+		"\x00\x00\x00\x01a\x23\xFE\x7D", "\x00\x00\x00\x01a\xC5\x7D\xFE\x23", "\x00\x00\x00\x01b\x23\xFE\x7D\xC5", "\x00\x00\x00\x01a\x00\x00\x00\x00", "\x00\x00\x00\x01a\x30\x43\xD0\xC1",
+		"\x01\x00\x00\x00a\x23\xFE\x7D\xC5", "\x00\x00\x01a\x23\xFE\x7D\xC5", "\x01a\x23\xFE\x7D\xC5", "a\x23\xFE\x7D\xC5",
+		"\x00\x00\x00\x02a\x23\xFE\x7D\xC5", "\x00\x00\x00\x02a\x23\xFE\x7D\xC5\x00", "\x00\x00\x00\x00a\x23\xFE\x7D\xC5",
 	} {
 		getsNone(t, s, 0)
 		getsNone(t, "x"+s, 1)
 		getsNone(t, all("ab")+s, 10)
 		finds(t, s, nil, 0)
 	}
+}
+
+// P7.1: what is sealed is no record, where the four bytes ahead are not the length of what is between these and the sum.
+func TestGetOfOtherLength(t *testing.T) {
+	for _, s := range []string{
+		sealed(""), sealed("a"), sealed("\x01a"), sealed("\x00\x01a"), sealed("\x00\x00\x01a"), sealed("\x01\x00\x00\x00a"),
+		sealed("\x00\x00\x00\x01"), sealed("\x00\x00\x00\x02a"), sealed("\x00\x00\x00\x02a") + "\x00", sealed("\x00\x00\x00\x00a"), sealed("\x00\x00\x00\x05a"), sealed("\x00\x00\x00\x09a"),
+		sealed("\x80\x00\x00\x00"), sealed("\xFF\xFF\xFF\xFF"), sealed("\xFF\xFF\xFF\xF8"), sealed("\xFF\xFF\xFF\xFC"), sealed("\x7F\xFF\xFF\xFFa"),
+		sealed("\x80\x00\x00\x01a"), sealed("\x00\x01\x00\x01a"), sealed("\x01\x00\x00\x01a"),
+	} {
+		getsNone(t, s, 0)
+		getsNone(t, "x"+s, 1)
+		getsNone(t, all("ab")+s, 10)
+		finds(t, s, nil, 0)
+		finds(t, s+s, nil, 0)
+	}
+}
+
+// P7.1: a length, and behind it the payload with the sum of the payload alone, is no record, of whatever payload.
+func TestSealedWithoutLength(t *testing.T) {
+	for _, payload := range somePayloads() {
+		s := length(payload) + sealed(payload)
+		if put, _ := Put(payload); put == s {
+			t.Errorf("Put(%.40x), of %d bytes: the length is not in its sum", payload, len(payload))
+		}
+		getsNone(t, s, 0)
+		getsNone(t, "x"+s+"y", 1)
+		finds(t, s, nil, 0)
+		finds(t, all("ab", "")+s+all("c"), []string{"ab", ""}, 18)
+	}
+}
+
+// P7.1: bytes that are all 0 are no record, however many there are, and wherever.
+func TestGetOfNoughts(t *testing.T) {
+	for _, many := range []int{8, 9, 16, 23, 24, 40, 65544, 70000} {
+		noughts := strings.Repeat("\x00", many)
+		for at := range min(many, 50) {
+			getsNone(t, noughts, at)
+			getsNone(t, noughts, many-at)
+		}
+		finds(t, noughts, nil, 0)
+		finds(t, all("ab", "")+noughts+all("c"), []string{"ab", ""}, 18)
+	}
+	getsNone(t, all("", "a"), 1)
+	getsNone(t, all("", "", ""), 4)
 }
 
 // P7.1: a payload has at most 65536 bytes: of one byte more there is no record, whatever its sum.
@@ -215,7 +267,7 @@ func TestWhole(t *testing.T) {
 		end  int
 	}{
 		{"", nil, 0}, {"x", nil, 0}, {"\x00\x00\x00\x00\x00\x00\x00", nil, 0}, {"x" + ab, nil, 0}, {ab[1:], nil, 0}, {ab[:9] + ab, nil, 0},
-		{"\x00\x00\x00\x00\x00\x00\x00\x00", []string{""}, 8}, {strings.Repeat("\x00", 23), []string{"", ""}, 16}, {strings.Repeat("\x00", 24), []string{"", "", ""}, 24},
+		{byWords(""), []string{""}, 8}, {all("", "", "")[:23], []string{"", ""}, 16}, {all("", "", ""), []string{"", "", ""}, 24}, {all("", "a"), []string{"", "a"}, 17},
 		{ab, []string{"ab"}, 10}, {ab + ab, []string{"ab", "ab"}, 20}, {ab + c, []string{"ab", "c"}, 19}, {c + ab, []string{"c", "ab"}, 19},
 		{ab + "x", []string{"ab"}, 10}, {ab + "x" + c, []string{"ab"}, 10}, {ab + c[:8] + c, []string{"ab"}, 10}, {ab + c[1:] + ab, []string{"ab"}, 10},
 		{ab + "\x00\x00\x00\x01d" + c[5:] + ab, []string{"ab"}, 10}, {byWords(ab + c), []string{ab + c}, 27}, {byWords(ab) + c, []string{ab, "c"}, 27},
@@ -229,7 +281,9 @@ func TestOfAllShortTexts(t *testing.T) {
 	for _, s := range samples.Texts("\x00\x01\x02\xFF", 5) {
 		isRead(t, s)
 		isRead(t, "\x00\x00\x00"+s)
-		isRead(t, "\x00\x00\x00"+s+"\x51\x53\x7D\x52")
+		isRead(t, "\x00\x00\x00"+s+"\x42\xEE\xD0\x56")
+		isRead(t, sealed(s))
+		isRead(t, sealed("\x00\x00\x00"+s))
 		isRead(t, byWords(s)+s)
 		isRead(t, s+byWords(s))
 	}
@@ -240,6 +294,7 @@ func FuzzOfAny(f *testing.F) {
 	for _, s := range samples.Texts("\x00\x01\xFF", 2) {
 		f.Add(s)
 		f.Add(byWords(s) + s + byWords(s))
+		f.Add(length(s) + sealed(s))
 	}
 	f.Add(all("ab", "", "c") + "\x00\x00")
 	f.Fuzz(func(t *testing.T, s string) {
@@ -357,7 +412,7 @@ func TestSameAgain(t *testing.T) {
 	slices.Reverse(l)
 	l[0] = "other"
 	Put("other")
-	Get("\x00\x00\x00\x00\x00\x00\x00\x00", 0)
+	Get(byWords("other"), 0)
 	finds(t, s, []string{"ab", "", "c"}, 27)
 	if l[0] != "other" || l[1] != "" || l[2] != "ab" {
 		t.Errorf("what was told is %q", l)
