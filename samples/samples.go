@@ -1,6 +1,8 @@
 // Package samples makes what the layers' tests go through; no layer calls it.
 package samples
 
+import "strings"
+
 // Texts are all those of up to so many of some bytes, the shortest first.
 func Texts(letters string, most int) []string {
 	l := []string{""}
@@ -41,4 +43,45 @@ func Patterns() []uint32 {
 		l = append(l, mixed|1)
 	}
 	return l
+}
+
+// Choices are what may stand in places, a list for each.
+type Choices [][]string
+
+// Each goes through all texts that have one of each list, in the order of the lists.
+func (l Choices) Each(do func(text string)) {
+	if len(l) == 0 {
+		do("")
+		return
+	}
+	for _, one := range l[0] {
+		l[1:].Each(func(rest string) { do(one + rest) })
+	}
+}
+
+// Quoted is rows as CSV, where fields that are chosen are in quotes, though they need not be.
+func Quoted(table [][]string, quote func(field string) bool) string {
+	text := ""
+	for _, row := range table {
+		for i, field := range row {
+			if i > 0 {
+				text += ","
+			}
+			if quote(field) {
+				field = `"` + strings.ReplaceAll(field, `"`, `""`) + `"`
+			}
+			text += field
+		}
+		text += "\n"
+	}
+	return text
+}
+
+// NotNumbers are texts that look like a number, and are none as an amount is put, or one beyond int64.
+func NotNumbers() []string {
+	return []string{
+		"", " ", "x", "-", "+", "-0", "+1", "+4", " 1", "1 ", " 4", "4 ", "01", "04", "007", "00", "-01", "--1",
+		"1.", "1.0", ".5", "1e2", "1e0", "0x1", "0b1", "1_0", "1x", "x1", "1,", "1,0", "1\n", "\n1", "1\r", "\"1\"", "\x00", "1\x00", "\x001", "\xFF", "１", "٣", "②", "one", "nil", "NaN",
+		"9223372036854775808", "-9223372036854775809", "18446744073709551617", "18446744073709551620", "99999999999999999999999999",
+	}
 }

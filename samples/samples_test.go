@@ -3,6 +3,9 @@ package samples
 import (
 	"slices"
 	"testing"
+
+	"consignor/csv"
+	"consignor/money"
 )
 
 // All texts are there, each once: tests that go through them leave none out.
@@ -58,5 +61,52 @@ func TestPatterns(t *testing.T) {
 				t.Errorf("bits %d and %d: both, or the row, are not there", i, j)
 			}
 		}
+	}
+}
+
+// Each choice is there, once, in the order of the lists; of no list there is one of nothing, of an empty one none.
+func TestChoices(t *testing.T) {
+	for _, x := range []struct {
+		choices Choices
+		want    []string
+	}{
+		{nil, []string{""}}, {Choices{{"a", "b"}}, []string{"a", "b"}}, {Choices{{"a"}, nil, {"b"}}, nil},
+		{Choices{{"a", ""}, {"1", "2"}, {"\n", "x"}}, []string{"a1\n", "a1x", "a2\n", "a2x", "1\n", "1x", "2\n", "2x"}},
+	} {
+		var l []string
+		x.choices.Each(func(text string) { l = append(l, text) })
+		if !slices.Equal(l, x.want) {
+			t.Errorf("Each of %q: %q; want %q", x.choices, l, x.want)
+		}
+	}
+}
+
+// Just the fields that are chosen are in quotes, and the rows are the same.
+func TestQuoted(t *testing.T) {
+	table := [][]string{{"a", "b"}, {""}, {"a", "", "c"}}
+	for _, x := range []struct{ chosen, want string }{
+		{"", "a,b\n\na,,c\n"}, {"a", "\"a\",b\n\n\"a\",,c\n"}, {"bc", "a,\"b\"\n\na,,\"c\"\n"},
+	} {
+		text := Quoted(table, func(field string) bool { return field != "" && slices.Contains([]byte(x.chosen), field[0]) })
+		if rows, r := csv.Parse(text); text != x.want || r.Code != 0 || !slices.EqualFunc(rows, table, slices.Equal) {
+			t.Errorf("Quoted, where %q are: %q; want %q", x.chosen, text, x.want)
+		}
+	}
+	all := Quoted([][]string{{"a,\"", ""}, {"\n"}}, func(string) bool { return true })
+	if want := "\"a,\"\"\",\"\"\n\"\n\"\n"; all != want {
+		t.Errorf("Quoted, where all are: %q; want %q", all, want)
+	}
+}
+
+// None of them is a number, no two are the same, and the one that is nothing is there.
+func TestNotNumbers(t *testing.T) {
+	l := NotNumbers()
+	for i, s := range l {
+		if n, ok := money.Get(s); ok || slices.Contains(l[:i], s) {
+			t.Errorf("%q: %d, %v, or it is there twice", s, n, ok)
+		}
+	}
+	if !slices.Contains(l, "") || len(l) < 40 {
+		t.Errorf("%d that are no numbers", len(l))
 	}
 }

@@ -11,6 +11,7 @@ import (
 
 	"consignor/api"
 	"consignor/rows"
+	"consignor/samples"
 )
 
 // The chapter's file, line by line.
@@ -334,33 +335,19 @@ func TestReadMany(t *testing.T) {
 	}
 }
 
-// fields are what may stand in a field, the first one of it right, and others not.
-type fields [][]string
-
-// each goes through all lines of such fields, each with each.
-func (l fields) each(do func(line string)) {
-	if len(l) == 0 {
-		do("")
-		return
-	}
-	for _, field := range l[0] {
-		l[1:].each(func(rest string) { do(field + rest) })
-	}
-}
-
 // P13.2: of lines each with each fault in each field, the first one that is wrong.
 func TestEachFault(t *testing.T) {
 	ends := []string{"\n", "", "x\n", "\r\n", " "}
-	fields{{"H", "D", "T", "h", ""}, {"PAYMENT ", "PAYMENTS", "payment ", "PAYMENT\x00", "PAYMENT"}, {"0000000005", "1073741824", "0000000000", "1073741825", "5         ", "x000000005"}, ends}.each(func(line string) {
+	samples.Choices{{"H", "D", "T", "h", ""}, {"PAYMENT ", "PAYMENTS", "payment ", "PAYMENT\x00", "PAYMENT"}, {"0000000005", "1073741824", "0000000000", "1073741825", "5         ", "x000000005"}, ends}.Each(func(line string) {
 		isParsed(t, line+second+last)
 		isParsed(t, line)
 	})
-	fields{{"D", "H", "T", "X"}, {"0003", "0002", "0061", "3   "}, {"charge  ", "refund  ", "ship    ", " charge ", "charge"}, {"D", "R", "X", "\x7F"}, {"00000000000300", "00000000000000", "01099511627777", "300           "}, ends}.each(func(line string) {
+	samples.Choices{{"D", "H", "T", "X"}, {"0003", "0002", "0061", "3   "}, {"charge  ", "refund  ", "ship    ", " charge ", "charge"}, {"D", "R", "X", "\x7F"}, {"00000000000300", "00000000000000", "01099511627777", "300           "}, ends}.Each(func(line string) {
 		isParsed(t, first+"D0003charge  D00000000000000\n"+line+"T0000020000000000000300\n")
 		isParsed(t, first+line+last)
 		isParsed(t, first+line)
 	})
-	fields{{"T", "D", "H", ""}, {"000001", "000000", "1     ", "00001"}, {"0000000000000300", "0000000000000000", "300             ", "000000000000030\x80"}, ends, {"", "\n", "T", second}}.each(func(line string) {
+	samples.Choices{{"T", "D", "H", ""}, {"000001", "000000", "1     ", "00001"}, {"0000000000000300", "0000000000000000", "300             ", "000000000000030\x80"}, ends, {"", "\n", "T", second}}.Each(func(line string) {
 		isParsed(t, first+second+line)
 		isParsed(t, first+line)
 		isParsed(t, line)

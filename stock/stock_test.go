@@ -264,9 +264,12 @@ func TestParseWidths(t *testing.T) {
 	}
 }
 
-// notNumbers are fields that say no number as Put tells it.
-func notNumbers() []string {
-	return []string{"", " ", "x", "-", "+", "-0", "+1", "+4", " 1", "1 ", " 4", "4 ", "01", "007", "00", "-01", "--1", "1.", "1.0", ".5", "1e2", "1e0", "0x1", "0b1", "1_0", "1x", "x1", "\"1,\"", "\"1\n\"", "\"\n1\"", "\"1\r\"", "\"\"\"1\"\"\"", "\x00", "1\x00", "\x001", "\xFF", "１", "٣", "②", "one", "nil", "NaN", "9223372036854775808", "-9223372036854775809", "18446744073709551617", "18446744073709551620", "99999999999999999999999999"}
+// notNumbers are fields, as they stand in a file, that say no number as Put tells it.
+func notNumbers() (l []string) {
+	for _, field := range samples.NotNumbers() {
+		l = append(l, strings.TrimSuffix(csv.Print([][]string{{field}}), "\n"))
+	}
+	return l
 }
 
 // P14.2: first rows whose Seq may not be, and those with one that may.
@@ -416,14 +419,11 @@ func TestReadMany(t *testing.T) {
 	}
 }
 
-// quoted is a field in quotes, though it need not be.
-func quoted(field string) string { return `"` + strings.ReplaceAll(field, `"`, `""`) + `"` }
-
 // P14.3: what is quoted otherwise is parsed as the same: each choice of fields of the chapter's file, each one of others, and all.
 func TestQuoted(t *testing.T) {
 	for choice := range 1 << 8 {
 		i := 0
-		text := joined([][]string{{"stock", "7"}, {"3", "reserve", "done", "4"}, {"end", "1"}}, func(field string) bool {
+		text := samples.Quoted([][]string{{"stock", "7"}, {"3", "reserve", "done", "4"}, {"end", "1"}}, func(field string) bool {
 			i++
 			return choice>>(i-1)&1 == 1
 		})
@@ -433,10 +433,10 @@ func TestQuoted(t *testing.T) {
 	for _, s := range append(some(), full()) {
 		text, _ := Print(s)
 		table, _ := csv.Parse(text)
-		isStatement(t, joined(table, func(string) bool { return true }), s)
+		isStatement(t, samples.Quoted(table, func(string) bool { return true }), s)
 		for only := range 2 + 4*len(s.Rows) + 2 {
 			i := -1
-			isStatement(t, joined(table, func(string) bool { i++; return i == only }), s)
+			isStatement(t, samples.Quoted(table, func(string) bool { i++; return i == only }), s)
 		}
 	}
 	// Where a field is wrong it is wrong in quotes, too, at the row and the field, not at the text's column.
@@ -445,51 +445,19 @@ func TestQuoted(t *testing.T) {
 	})
 }
 
-// joined is a text of rows, some of whose fields are quoted, though they need not be.
-func joined(table [][]string, quote func(field string) bool) string {
-	text := ""
-	for _, row := range table {
-		for i, field := range row {
-			if i > 0 {
-				text += ","
-			}
-			if quote(field) {
-				field = quoted(field)
-			}
-			text += field
-		}
-		text += "\n"
-	}
-	return text
-}
-
-// choices are what may stand in a field, and others not.
-type choices [][]string
-
-// each goes through all rows of such fields, each with each.
-func (l choices) each(do func(row string)) {
-	if len(l) == 0 {
-		do("")
-		return
-	}
-	for _, field := range l[0] {
-		l[1:].each(func(rest string) { do(field + rest) })
-	}
-}
-
 // P14.2: of rows each with each fault in each field, the first one that is wrong.
 func TestEachFault(t *testing.T) {
 	ends := []string{"\n", "", ",\n", ",x,y\n", "\r\n", "\"\n"}
-	choices{{"stock", "stack", "end", "3", "\"stock\"", ""}, {",7", ",1073741824", ",0", ",1073741825", ",07", ",\"7\"", ""}, ends}.each(func(row string) {
+	samples.Choices{{"stock", "stack", "end", "3", "\"stock\"", ""}, {",7", ",1073741824", ",0", ",1073741825", ",07", ",\"7\"", ""}, ends}.Each(func(row string) {
 		isParsed(t, row+second+last)
 		isParsed(t, row)
 	})
-	choices{{"3", "2", "61", "03", "end", "stock", "\"3\""}, {",reserve", ",release", ",ship", ",", ""}, {",done", ",refused", ",x", ""}, {",4", ",0", ",999", ",1000", ",04", ""}, ends}.each(func(row string) {
+	samples.Choices{{"3", "2", "61", "03", "end", "stock", "\"3\""}, {",reserve", ",release", ",ship", ",", ""}, {",done", ",refused", ",x", ""}, {",4", ",0", ",999", ",1000", ",04", ""}, ends}.Each(func(row string) {
 		isParsed(t, first+"3,reserve,done,0\n"+row+"end,2\n")
 		isParsed(t, first+row+last)
 		isParsed(t, first+row)
 	})
-	choices{{"end", "stock", "4", ""}, {",1", ",0", ",2", ",-1", ",01", ",\"1\"", ""}, ends, {"", "\n", "end,1\n", second}}.each(func(row string) {
+	samples.Choices{{"end", "stock", "4", ""}, {",1", ",0", ",2", ",-1", ",01", ",\"1\"", ""}, ends, {"", "\n", "end,1\n", second}}.Each(func(row string) {
 		isParsed(t, first+second+row)
 		isParsed(t, first+row)
 		isParsed(t, row)
@@ -582,7 +550,7 @@ func TestAnyStatement(t *testing.T) {
 		}
 		isParsed(t, text)
 		table, _ := csv.Parse(text)
-		isStatement(t, joined(table, func(string) bool { return r.Intn(2) == 0 }), s)
+		isStatement(t, samples.Quoted(table, func(string) bool { return r.Intn(2) == 0 }), s)
 		if other, there := by[text]; there && !rows.Same(other, s) {
 			t.Fatalf("%v and %v are printed as %q", s, other, text)
 		}
