@@ -177,21 +177,6 @@ func sizes() []int64 {
 	return l
 }
 
-// names are texts that are a name, or nearly one, or none.
-func names() []string {
-	l := []string{
-		"", "a", "z", "A", "Z", "0", "9", "-", "_", "--", "__", "-_-", "nut", "R-1", "a b", " a", "a ", "a\n", "\na", "a\x00", "\x00", "\x00a", ".", "a.b", "a,b", "a/b", "a:b", "a+b", "@", "[", "`", "{", "/", "\x7F",
-		// Letters and digits that are none of the chapter's, and runes whose lowest byte is one of them.
-		"é", "ſ", "K", "Ａ", "０", "١", "–", "＿", "Ł", "\U00010041", "š", "aŁ", "Ła", "日", "ａb",
-		"\xFF", "\x80", "\xC1\x81", "a\xFF", "\xFFa", "\xE2\x84", "\uFFFD", "\xED\xA0\x80",
-		"abcdefgh", "abcdefghi", "abcdefg", "abcdefgé", "abcdefé", "éééé", "ééééé", "abcdefg ", "abcdefgh ", "ABCDEFGHIJKLMNOP", "ABCDEFGHIJKLMNOPQ", "0123456789-_abc", "0123456789-_ab.", "0123456789-_abcd", "0123456789-_abc.", "éééééééé", "ééééééééé", "éééééééééééééééé", "日日日日日", "日日日日日日",
-	}
-	for _, size := range []int{100, 127, 128, 256 + 3, 16384, 65536, 1<<20 + 3} {
-		l = append(l, strings.Repeat("a", size), strings.Repeat("é", size/2))
-	}
-	return l
-}
-
 // P11.1: both ends of each number, and of each text's bytes, and one beyond each.
 func TestCheck(t *testing.T) {
 	for _, x := range []struct {
@@ -268,8 +253,8 @@ func TestNames(t *testing.T) {
 
 // P11.1, P11.3: all names, nearly names and others, each with each; bytes count, not runes.
 func TestEachName(t *testing.T) {
-	for _, ref := range names() {
-		for _, sku := range names() {
+	for _, ref := range samples.Names() {
+		for _, sku := range samples.Names() {
 			isPut(t, with(func(o *api.Order) { o.Ref, o.Sku = ref, sku }))
 		}
 	}
@@ -428,7 +413,7 @@ func TestMsg(t *testing.T) {
 			isAsked(t, with(func(o *api.Order) { o.Amount = n }), deed)
 		}
 	}
-	for _, s := range names() {
+	for _, s := range samples.Names() {
 		for deed := -1; deed <= 6; deed++ {
 			isAsked(t, with(func(o *api.Order) { o.Ref = s }), deed)
 			isAsked(t, with(func(o *api.Order) { o.Sku = s }), deed)
@@ -479,7 +464,7 @@ func TestMay(t *testing.T) {
 				isMay(t, other)
 			}
 		}
-		for _, s := range names() {
+		for _, s := range samples.Names() {
 			other := m
 			other.Sku = s
 			isMay(t, other)

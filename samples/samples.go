@@ -85,3 +85,18 @@ func NotNumbers() []string {
 		"9223372036854775808", "-9223372036854775809", "18446744073709551617", "18446744073709551620", "99999999999999999999999999",
 	}
 }
+
+// Names are texts that are a name of an order's, or nearly one, or none.
+func Names() []string {
+	l := []string{
+		"", "a", "z", "A", "Z", "0", "9", "-", "_", "--", "__", "-_-", "nut", "R-1", "a b", " a", "a ", "a\n", "\na", "a\x00", "\x00", "\x00a", ".", "a.b", "a,b", "a/b", "a:b", "a+b", "@", "[", "`", "{", "/", "\x7F",
+		// Letters and digits that are none of the chapter's, and runes whose lowest byte is one of them.
+		"é", "ſ", "K", "Ａ", "０", "١", "–", "＿", "Ł", "\U00010041", "š", "aŁ", "Ła", "日", "ａb",
+		"\xFF", "\x80", "\xC1\x81", "a\xFF", "\xFFa", "\xE2\x84", "\uFFFD", "\xED\xA0\x80",
+		"abcdefgh", "abcdefghi", "abcdefg", "abcdefgé", "abcdefé", "éééé", "ééééé", "abcdefg ", "abcdefgh ", "ABCDEFGHIJKLMNOP", "ABCDEFGHIJKLMNOPQ", "0123456789-_abc", "0123456789-_ab.", "0123456789-_abcd", "0123456789-_abc.", "éééééééé", "ééééééééé", "éééééééééééééééé", "日日日日日", "日日日日日日",
+	}
+	for _, size := range []int{100, 127, 128, 256 + 3, 16384, 65536, 1<<20 + 3} {
+		l = append(l, strings.Repeat("a", size), strings.Repeat("é", size/2))
+	}
+	return l
+}

@@ -4,8 +4,10 @@ import (
 	"slices"
 	"testing"
 
+	"consignor/api"
 	"consignor/csv"
 	"consignor/money"
+	"consignor/orders"
 )
 
 // All texts are there, each once: tests that go through them leave none out.
@@ -108,5 +110,19 @@ func TestNotNumbers(t *testing.T) {
 	}
 	if !slices.Contains(l, "") || len(l) < 40 {
 		t.Errorf("%d that are no numbers", len(l))
+	}
+}
+
+// Some of them are names of what is ordered, and of its goods, some are neither, and none is there twice.
+func TestNames(t *testing.T) {
+	l, many := Names(), map[api.Errno]int{}
+	for i, s := range l {
+		many[orders.Check(api.Order{Id: 1, Ref: "r", Sku: s, Qty: 1, Amount: 1})]++
+		if slices.Contains(l[:i], s) {
+			t.Errorf("%.50q is there twice", s)
+		}
+	}
+	if many[api.OK] < 10 || many[api.ErrArg] < 30 || many[api.ErrLong] < 10 || !slices.Contains(l, "") {
+		t.Errorf("so many names by what is told of them: %v", many)
 	}
 }
